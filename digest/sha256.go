@@ -1,0 +1,57 @@
+package digest
+
+// constants256 contains the words K of SHA-256.
+var constants256 = [64]uint32{
+	0x428a2f98, 0x71374491, 0xb5c0fbcf, 0xe9b5dba5, 0x3956c25b, 0x59f111f1, 0x923f82a4, 0xab1c5ed5,
+	0xd807aa98, 0x12835b01, 0x243185be, 0x550c7dc3, 0x72be5d74, 0x80deb1fe, 0x9bdc06a7, 0xc19bf174,
+	0xe49b69c1, 0xefbe4786, 0x0fc19dc6, 0x240ca1cc, 0x2de92c6f, 0x4a7484aa, 0x5cb0a9dc, 0x76f988da,
+	0x983e5152, 0xa831c66d, 0xb00327c8, 0xbf597fc7, 0xc6e00bf3, 0xd5a79147, 0x06ca6351, 0x14292967,
+	0x27b70a85, 0x2e1b2138, 0x4d2c6dfc, 0x53380d13, 0x650a7354, 0x766a0abb, 0x81c2c92e, 0x92722c85,
+	0xa2bfe8a1, 0xa81a664b, 0xc24b8b70, 0xc76c51a3, 0xd192e819, 0xd6990624, 0xf40e3585, 0x106aa070,
+	0x19a4c116, 0x1e376c08, 0x2748774c, 0x34b0bcb5, 0x391c0cb3, 0x4ed8aa4a, 0x5b9cca4f, 0x682e6ff3,
+	0x748f82ee, 0x78a5636f, 0x84c87814, 0x8cc70208, 0x90befffa, 0xa4506ceb, 0xbef9a3f7, 0xc67178f2,
+}
+
+// sum256 returns the SHA-256 digest of b.
+func sum256(b []byte) []byte {
+	state := [8]uint32{
+		0x6a09e667, 0xbb67ae85, 0x3c6ef372, 0xa54ff53a,
+		0x510e527f, 0x9b05688c, 0x1f83d9ab, 0x5be0cd19,
+	}
+	eachBlock(b, func(block []byte) {
+		state = compress256(state, expand256(block))
+	})
+	return join(state[:]...)
+}
+
+// expand256 returns the words W of a block.
+func expand256(block []byte) [64]uint32 {
+	var w [64]uint32
+	for t := range blockWords {
+		w[t] = wordAt(block[wordSize*t:])
+	}
+	for t := blockWords; t < len(w); t++ {
+		x, y := w[t-15], w[t-2]
+		s0 := rotateRight(x, 7) ^ rotateRight(x, 18) ^ (x >> 3)
+		s1 := rotateRight(y, 17) ^ rotateRight(y, 19) ^ (y >> 10)
+		w[t] = s1 + w[t-7] + s0 + w[t-16]
+	}
+	return w
+}
+
+// compress256 returns the state after a block with the given words.
+func compress256(state [8]uint32, words [64]uint32) [8]uint32 {
+	a, b, c, d := state[0], state[1], state[2], state[3]
+	e, f, g, h := state[4], state[5], state[6], state[7]
+	for t, k := range constants256 {
+		s0 := rotateRight(a, 2) ^ rotateRight(a, 13) ^ rotateRight(a, 22)
+		s1 := rotateRight(e, 6) ^ rotateRight(e, 11) ^ rotateRight(e, 25)
+		t1 := h + s1 + ((e & f) ^ (^e & g)) + k + words[t]
+		t2 := s0 + ((a & b) ^ (a & c) ^ (b & c))
+		a, b, c, d, e, f, g, h = t1+t2, a, b, c, d+t1, e, f, g
+	}
+	for i, x := range [8]uint32{a, b, c, d, e, f, g, h} {
+		state[i] += x
+	}
+	return state
+}
